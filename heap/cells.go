@@ -19,9 +19,12 @@ func (h *Heap) leads(v api.Value) bool {
 	return isObject(v) && object.Value(v) && h.head(int(v.N)).Kind == v.T
 }
 
-// isThere: the value may be put somewhere.
+// isThere: the value may be handed in, and put somewhere. A key whose object is gone is right, but an object's that it does not lead to: the collector alone makes one, where a pair's key was.
 func (h *Heap) isThere(v api.Value) bool {
-	if isObject(v) {
+	switch {
+	case v.T == api.TDead:
+		return false
+	case isObject(v):
 		return h.leads(v)
 	}
 	return object.Value(v)

@@ -171,8 +171,21 @@ func TestP14_8(t *testing.T) {
 	}
 }
 
-// TestP14_10: no rule is broken, of programs that mark for finalisers, hold weakly, and take what is pending.
+// deadIn is a key whose object is gone, if a table has one.
+func deadIn(h *heap.Heap) api.Value {
+	for _, s := range h.View().Seen {
+		for _, v := range s.Thing.Slots {
+			if v.T == api.TDead {
+				return v
+			}
+		}
+	}
+	return none
+}
+
+// TestP14_10: no rule is broken, nor a layout, of programs that mark for finalisers, hold weakly, take what is pending, and use whatever they read.
 func TestP14_10(t *testing.T) {
+	deads := 0
 	for seed := range 150 {
 		r := rand.New(rand.NewSource(int64(seed)))
 		p := newProgram(t, 150+r.Intn(600))
@@ -189,6 +202,11 @@ func TestP14_10(t *testing.T) {
 				}}
 			case 2:
 				d = deed{"SetMeta", func(p *program) (string, api.Errno) { return "", p.h.SetMeta(p.regs[i], none, r.Intn(4)) }}
+			case 3:
+				if v := deadIn(p.h); v != none {
+					deads++
+					d = deed{"a dead key", func(p *program) (string, api.Errno) { return p.put(i, v, api.OK) }}
+				}
 			}
 			view, roots := p.h.View(), p.h.Roots()
 			needed := neededCells(p.h, view, roots)
@@ -203,6 +221,9 @@ func TestP14_10(t *testing.T) {
 			checkRules(t, d.name, p.h)
 			checkRules(t, collected(r, p.h), p.h)
 		}
+	}
+	if deads < 15 {
+		t.Errorf("%d dead keys were read alone", deads)
 	}
 }
 

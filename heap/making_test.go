@@ -37,7 +37,7 @@ func leading(kind, n int) api.Value {
 var (
 	yes      = api.Value{T: api.TBool, N: 1}
 	noNumber = api.Value{T: api.TFloat, N: 0x7ff8000000000001}
-	dead     = api.Value{T: api.TDead, N: 1}
+	dead     = api.Value{T: api.TDead, N: 1} // a key whose object is gone: right, but not there
 )
 
 // plain are values that are no objects', and right.
@@ -47,7 +47,8 @@ var plain = []api.Value{none, {T: api.TBool}, yes, whole(0), whole(7), whole(mat
 var never = []api.Value{
 	{T: -1}, {T: 12}, {T: 12, N: 1}, {T: math.MinInt}, {T: math.MaxInt}, {T: 1<<32 + api.TTable, N: 1},
 	{T: api.TNil, N: 1}, {T: api.TBool, N: 2}, {T: api.TBool, N: -1}, {T: api.TFloat, N: 0x7ff8000000000000}, {T: api.TFloat, N: -1},
-	{T: api.TNative, N: -1}, {T: api.TNative, N: 256}, {T: api.TDead}, {T: api.TDead, N: api.MaxCells + 1}, {T: api.TDead, N: -1},
+	{T: api.TNative, N: -1}, {T: api.TNative, N: 256},
+	dead, {T: api.TDead, N: 2}, {T: api.TDead, N: api.MaxCells}, {T: api.TDead}, {T: api.TDead, N: api.MaxCells + 1}, {T: api.TDead, N: -1},
 	{T: api.TStr}, {T: api.TTable}, {T: api.TFunc}, {T: api.TBox}, {T: api.TThread}, {T: api.TProto},
 	{T: api.TTable, N: -1}, {T: api.TTable, N: math.MinInt64}, {T: api.TTable, N: math.MaxInt64}, {T: api.TStr, N: api.MaxCells + 1},
 	{T: api.TTable, N: 1<<32 + 1}, {T: api.TStr, N: 1<<32 + 2}, {T: api.TThread, N: 9999}, {T: api.TProto, N: api.MaxCells},

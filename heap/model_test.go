@@ -115,7 +115,7 @@ func (m *model) find(v api.Value) *api.Object {
 
 func (m *model) there(l ...api.Value) bool {
 	for _, v := range l {
-		if slices.Contains(kinds, v.T) && m.find(v) == nil || !object.Value(v) {
+		if slices.Contains(kinds, v.T) && m.find(v) == nil || v.T == api.TDead || !object.Value(v) {
 			return false
 		}
 	}

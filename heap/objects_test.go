@@ -214,7 +214,7 @@ func TestP14_2GrowOfOthers(t *testing.T) {
 	h := open(t, 200)
 	a := one(t)(h.Thread(2))
 	proto, box := one(t)(h.Proto(0)), one(t)(h.Box(none))
-	l := []api.Value{proto, box, one(t)(h.Text("")), one(t)(h.Table()), one(t)(h.Func(proto, box)), leading(api.TTable, int(a.N)), leading(api.TThread, int(box.N)), leading(api.TThread, 99), dead}
+	l := []api.Value{proto, box, one(t)(h.Text("")), one(t)(h.Table()), one(t)(h.Func(proto, box)), leading(api.TTable, int(a.N)), leading(api.TThread, int(box.N)), leading(api.TThread, 99)}
 	for _, v := range append(append(l, never...), plain...) {
 		for _, n := range []int{-1, 0, 1, 3, api.MaxParts + 1} {
 			check(t, "Grow of no thread", h.Grow(v, n), api.ErrType)

@@ -47,7 +47,7 @@ func TestP14_3Object(t *testing.T) {
 		}
 		checkObject(t, "asked again", h, v, kept)
 	}
-	for _, v := range slices.Concat(never, plain, []api.Value{dead, leading(api.TBox, int(tab.N)), leading(api.TStr, int(thread.N)), leading(api.TTable, 7)}) {
+	for _, v := range slices.Concat(never, plain, []api.Value{leading(api.TBox, int(tab.N)), leading(api.TStr, int(thread.N)), leading(api.TTable, 7)}) {
 		checkGone(t, "no object", h, v)
 		if s, is := h.Bytes(v); s != "" || is {
 			t.Errorf("Bytes(%v): %q, %v", v, s, is)
@@ -109,7 +109,7 @@ func TestP14_3Slot(t *testing.T) {
 		}
 		checkObject(t, "refused", h, v, o)
 	}
-	for _, v := range slices.Concat(never, plain, []api.Value{dead, leading(api.TBox, int(tab.N)), leading(api.TTable, 7)}) {
+	for _, v := range slices.Concat(never, plain, []api.Value{leading(api.TBox, int(tab.N)), leading(api.TTable, 7)}) {
 		got, err := h.Slot(v, 0)
 		checkRefused(t, "Slot of no object", got, err, api.ErrType)
 		check(t, "SetSlot of no object", h.SetSlot(v, -1, never[0]), api.ErrType)

@@ -129,10 +129,7 @@ func users(r *rand.Rand) []deed {
 	return []deed{
 		set, set, set, set,
 		{"Slot", func(p *program) (string, api.Errno) {
-			v, err := p.h.Slot(p.regs[j], n)
-			if v.T == api.TDead { // no program's value
-				return "", err
-			}
+			v, err := p.h.Slot(p.regs[j], n) // of a weak table it may be a key whose object is gone
 			return p.put(i, v, err)
 		}},
 		{"SetSlot", func(p *program) (string, api.Errno) {

@@ -48,6 +48,8 @@ func (c *caller) some(kind int) api.Value {
 		return leading(c.Intn(13)-1, c.Intn(20)-2)
 	case n == 4:
 		return c.object(0)
+	case n == 5:
+		return leading(api.TDead, 1+c.Intn(20))
 	}
 	if kind < 0 { // any value
 		switch c.Intn(5) {

@@ -58,20 +58,19 @@ func TestP14_4SetGet(t *testing.T) {
 	check(t, "Next", err, api.OK)
 }
 
-// Keys that may not be: nil, and what is no number; a dead one.
+// Keys that may not be: nil, and what is no number. (A dead one is not there: TestP14_9Dead.)
 func TestP14_4NoKeys(t *testing.T) {
 	h := open(t, 100)
 	tab := one(t)(h.Table())
 	h.SetRoots(tab)
 	check(t, "Set", h.Set(tab, yes, whole(1)), api.OK)
 	before, _ := h.Object(tab)
-	for _, k := range []api.Value{none, noNumber, dead} {
+	for _, k := range []api.Value{none, noNumber} {
 		check(t, "Set by no key", h.Set(tab, k, whole(1)), api.ErrKey)
 		check(t, "Set by no key to nil", h.Set(tab, k, none), api.ErrKey)
 		checkGet(t, "Get by no key", h, tab, k, none)
 	}
-	check(t, "Set to a dead one", h.Set(tab, yes, dead), api.ErrKey)
-	for _, k := range []api.Value{noNumber, dead, whole(1), {T: api.TBool}} {
+	for _, k := range []api.Value{noNumber, whole(1), {T: api.TBool}} {
 		k, v, err := h.Next(tab, k)
 		check(t, "Next of no key", [2]api.Value{k, v}, [2]api.Value{})
 		check(t, "Next of no key", err, api.ErrKey)
@@ -90,7 +89,7 @@ func TestP14_4Refused(t *testing.T) {
 	str, tab, fun, box, thread, proto := sample(t, h)
 	check(t, "Set", h.Set(tab, str, fun), api.OK)
 	before, _ := h.Object(tab)
-	noTables := slices.Concat(never, plain, []api.Value{dead, str, fun, box, thread, proto, leading(api.TTable, int(box.N)), leading(api.TTable, 7), leading(api.TProto, int(tab.N))})
+	noTables := slices.Concat(never, plain, []api.Value{str, fun, box, thread, proto, leading(api.TTable, int(box.N)), leading(api.TTable, 7), leading(api.TProto, int(tab.N))})
 	for _, x := range noTables {
 		for _, k := range []api.Value{none, str, never[0]} {
 			v, err := h.Get(x, k)
