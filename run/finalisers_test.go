@@ -27,11 +27,11 @@ func TestP0_5Rows(t *testing.T) {
 		row{src: fin + `local a = fin(1) setmeta(a, m) setmeta(a, m) emit("end")`, lines: "end|gone 1"},
 		row{src: fin + `local a, b = fin(1), fin(2) setmeta(a, m) emit("end")`, lines: "end|gone 2|gone 1"},                                                                                                // marked once: it is where it was
 		row{src: fin + `local n = 0 m.__gc = function(o) n = n + 1 if n < 5 then setmeta(o, m) end end local function f() fin(1) end f() for i = 1, 20 do collect() local t = {} end emit(n)`, lines: "5"}, // once a mark
-		row{src: fin + `m.__gc = function(o) emit("gone", o[1]) if o[1] > 1 then fin(o[1] - 1) end end local a, b = fin(1), fin(3) emit("end")`, lines: "end|gone 3|gone 1"},
 		row{src: fin + `m.__gc = function(o) emit("gone", o[1]) g = o end local a = fin(1) emit("end")`, lines: "end|gone 1"},
 		row{src: fin + `setmeta({}, {__gc = 1}) setmeta({}, {__gc = error}) local a = fin(1) setmeta({}, {__gc = function() error("lost") end})`, lines: "gone 1"},
 	)
 	between := []row{
+		{src: fin + `m.__gc = function(o) emit("gone", o[1]) if o[1] > 1 then fin(o[1] - 1) end end local a, b = fin(1), fin(3) emit("end")`, lines: "end|gone 3|gone 1"},
 		{src: fin + `local n = 0 m.__gc = function(o) n = n + 1 emit(n) if n < 5 then setmeta(o, m) end end local a = fin(1) emit("end")`, lines: "end|1"},
 		{src: fin + `g = create(function() local b = fin(2) yield() emit(b) end) resume(g) close(g) emit("end")`, lines: "end|gone 2"},
 		{src: fin + `local function f() fin(1) fin(2) fin(3) end f() collect() for i = 1, 9 do local t = {} end emit("end")`, lines: "gone 3|gone 2|gone 1|end"},
