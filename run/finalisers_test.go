@@ -117,7 +117,7 @@ func madeStory(r *rand.Rand) story {
 func TestP0_5Stories(t *testing.T) {
 	t.Parallel()
 	r := rand.New(rand.NewSource(5))
-	for range 150 {
+	for range 80 {
 		s := madeStory(r)
 		x := run.Play(roomy(s.src))
 		if !slices.Equal(x.Lines, s.lines) || x.Verdict != api.Done {

@@ -74,7 +74,7 @@ for i = 1, 6 do emit(t["k" .. i](), s) end emit(pcall(error, {})) emit(#t, next(
 // P17.6: with more steps there are more lines, and none is another one; all that is counted grows.
 func TestP17_6Steps(t *testing.T) {
 	t.Parallel()
-	for seed := range 40 {
+	for seed := range 30 {
 		x := anyScene(int64(seed))
 		x.Steps = 600
 		last := run.Play(x)

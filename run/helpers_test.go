@@ -3,7 +3,6 @@ package run_test
 import (
 	"fmt"
 	"slices"
-	"sort"
 	"strings"
 	"testing"
 
@@ -59,13 +58,17 @@ func shown(x api.Trace) string {
 	return fmt.Sprintf("E %d at %d, verdict %d, lines %q, error %q, %d steps, %d made, %d urgent", x.E, x.At, x.Verdict, x.Lines, x.Error, x.Steps, x.Made, x.Urgent)
 }
 
-// least is the size from which on a source is not refused.
+// least is the size from which on a source is not refused: what it has at its beginning, or somewhat more.
 func least(src string) int {
 	p, _, _ := code.Compile(src)
-	return sort.Search(2000, func(size int) bool {
-		_, e := vm.New(p, size)
-		return e != api.ErrFull
-	})
+	m, _ := vm.New(p, 8000)
+	size, _, _ := m.Free()
+	for {
+		if _, e := vm.New(p, size); e == api.OK {
+			return size
+		}
+		size++
+	}
 }
 
 // begins: a list goes on from another one.

@@ -141,7 +141,7 @@ local function name(x) if type(x) == "table" then return x[1] end return x end l
 func TestP0_6Pools(t *testing.T) {
 	t.Parallel()
 	r := rand.New(rand.NewSource(6))
-	for range 100 {
+	for range 70 {
 		src, want := madePool(r)
 		for range 3 {
 			scene := roomy(src, slices.Repeat(anyPoints(r), 3)...)

@@ -42,7 +42,7 @@ func TestP0_2EachPlace(t *testing.T) {
 	if want.Verdict != api.Failed || len(want.Lines) != 15 || want.Urgent != 0 {
 		t.Fatal(shown(want))
 	}
-	kinds := []api.Point{of(api.PointStep, 1), of(api.PointStep, 25), of(api.PointStep, 9999), of(api.PointYoung), of(api.PointMajor), of(api.PointMode, 1), of(api.PointMode, 0), of(api.PointCompact)}
+	kinds := []api.Point{of(api.PointStep, 1), of(api.PointStep, 40), of(api.PointYoung), of(api.PointMajor), of(api.PointMode, 1), of(api.PointMode, 0), of(api.PointCompact)}
 	for place := range 300 {
 		for _, p := range kinds {
 			x.Points = append(slices.Repeat([]api.Point{{}}, place), p)
@@ -63,7 +63,7 @@ func TestP0_2AllPlaces(t *testing.T) {
 	t.Parallel()
 	r := rand.New(rand.NewSource(2))
 	sources := []string{busy}
-	for range 60 {
+	for range 40 {
 		sources = append(sources, madeSource(r, false, false))
 	}
 	for _, src := range sources {
@@ -82,7 +82,7 @@ func TestP0_2AllPlaces(t *testing.T) {
 func TestP0_3Rules(t *testing.T) {
 	t.Parallel()
 	phases := map[[2]int]int{}
-	for seed := range 150 {
+	for seed := range 100 {
 		x := anyScene(int64(seed))
 		if seed%30 == 0 {
 			x.Source = busy
