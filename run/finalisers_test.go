@@ -119,12 +119,12 @@ func TestP0_5Stories(t *testing.T) {
 	r := rand.New(rand.NewSource(5))
 	for range 80 {
 		s := madeStory(r)
-		x := run.Play(roomy(s.src))
+		x := run.Play(api.Scene{Size: 20000, Steps: api.MaxSteps, Source: s.src})
 		if !slices.Equal(x.Lines, s.lines) || x.Verdict != api.Done {
 			t.Fatalf("%s\n%s, want\n%q", s.src, shown(x), s.lines)
 		}
 		for range 4 {
-			scene := roomy(s.src, anyPoints(r)...)
+			scene := api.Scene{Size: 20000, Steps: api.MaxSteps, Points: anyPoints(r), Source: s.src}
 			if r.Intn(2) == 0 {
 				scene.Size = least(s.src) + 300 + r.Intn(300)
 			}

@@ -474,7 +474,7 @@ func anyPoints(r *rand.Rand) []api.Point {
 // anyScene is one of a source that compiles, in much room or in little.
 func anyScene(seed int64) api.Scene {
 	r := rand.New(rand.NewSource(seed))
-	x := api.Scene{Size: api.MaxCells, Steps: r.Intn(2000), Points: anyPoints(r), Source: anySource(r)}
+	x := api.Scene{Size: []int{20000, 40000, api.MaxCells}[r.Intn(3)], Steps: r.Intn(2000), Points: anyPoints(r), Source: anySource(r)}
 	if r.Intn(3) > 0 {
 		x.Size = least(x.Source) - 3 + r.Intn(150)
 	}

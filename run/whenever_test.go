@@ -87,6 +87,9 @@ func TestP0_3Rules(t *testing.T) {
 		if seed%30 == 0 {
 			x.Source = busy
 		}
+		if seed%3 == 0 {
+			x.Points = many(api.PointStep, 1+seed/3)
+		}
 		p, _, _ := code.Compile(x.Source)
 		m, e := vm.New(p, x.Size, x.Points...)
 		for n := 0; e == api.OK && n < 400 && !m.Over(); n++ {
